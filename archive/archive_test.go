@@ -223,7 +223,7 @@ func TestSame(t *testing.T) {
 func TestChangedBytes(t *testing.T) {
 	a := pack(t, lists[3]...)
 	s, _ := archive.Put(a)
-	for i := range s {
+	for i := range len(s) {
 		b := []byte(s)
 		b[i] ^= 1 << (i % 8)
 		got, e := archive.Take(string(b))

@@ -87,7 +87,7 @@ func TestErrors(t *testing.T) {
 // 14.2
 func TestChangedBlocks(t *testing.T) {
 	s, _ := block.Seal(keys, 9, chunk(9))
-	for i := range s {
+	for i := range len(s) {
 		b := []byte(s)
 		b[i] ^= 1 << (i % 8)
 		if got, e := block.Open(keys, 9, string(b)); got != "" || e != api.ErrTag {

@@ -98,7 +98,7 @@ func TestTakeErrors(t *testing.T) {
 			t.Errorf("%x: %+v %d", x, h, e)
 		}
 	}
-	for i := range s {
+	for i := range len(s) {
 		b := []byte(s)
 		b[i] ^= 0x10
 		if h, e := header.Take(string(b)); e == api.OK {

@@ -135,7 +135,7 @@ func TestTakeErrors(t *testing.T) {
 		}
 	}
 	for _, s := range []string{o, d, a} {
-		for i := range s {
+		for i := range len(s) {
 			b := []byte(s)
 			b[i] ^= 1 << (i % 8)
 			if p, e := packet.Take(string(b)); e == api.OK {
