@@ -253,6 +253,12 @@ func TestTransfer(t *testing.T) {
 	if h, kept, e := p.Head(7); h != a.Head || kept || e != api.OK {
 		t.Error("head", e)
 	}
+	if h, kept, e := p.Head(8); h != (api.Header{}) || kept || e != api.ErrNone {
+		t.Error("head of nothing", e)
+	}
+	if s, e := p.Block(8, 0); s != "" || e != api.ErrNone {
+		t.Error("a block of nothing", e)
+	}
 	if got, e := p.Got(7); got != bitset.New(5) || e != api.OK {
 		t.Error("got", e)
 	}
@@ -505,7 +511,10 @@ func TestAdd(t *testing.T) {
 func TestNil(t *testing.T) {
 	var p *depot.Depot
 	a := packed(t, 1, 1)
-	_, _, e := p.Head(1)
+	h, kept, e := p.Head(1)
+	if h != (api.Header{}) || kept {
+		t.Error("head")
+	}
 	_, e2 := p.Got(1)
 	_, e3 := p.Read(1)
 	_, e4 := p.Block(1, 0)

@@ -13,6 +13,7 @@ import (
 	"sledge/flate"
 	"sledge/huff"
 	"sledge/inflate"
+	"sledge/lz"
 )
 
 func letters(n, of int) string {
@@ -55,6 +56,43 @@ func TestOwn(t *testing.T) {
 		}
 	}
 	check(t, "empty", flate.Pack(""), -7, "", len(flate.Pack("")), api.OK)
+}
+
+// 10.1: a compressed string that ends too early, wherever that is.
+func TestCut(t *testing.T) {
+	s := letters(60, 20) + strings.Repeat("abc", 30) + letters(40, 250)
+	l := lz.Parse(s)
+	for _, cuts := range [][]int{{len(l)}, {1, 2, 3, 5, len(l)}, {10, 10, 11, 40, len(l)}} {
+		for kind := 1; kind <= 2; kind++ {
+			var w bits.Writer
+			before := 0
+			for i, cut := range cuts {
+				flate.Block(&w, l[before:cut], kind, i == len(cuts)-1)
+				before = cut
+			}
+			packed := w.Bytes()
+			check(t, "whole", packed, len(s), s, len(packed), api.OK)
+			for n := range len(packed) {
+				check(t, "cut", packed[:n], len(s), "", 0, api.ErrForm)
+			}
+		}
+	}
+	stored := unlast(flate.Store("some")) + flate.Store("thing")
+	for n := range len(stored) {
+		check(t, "stored, cut", stored[:n], 99, "", 0, api.ErrForm)
+	}
+}
+
+// 10.1: the symbols 30 and 31 are no distances, however far back the string reaches.
+func TestNoDistances(t *testing.T) {
+	long := unlast(flate.Store(letters(60000, 200)))
+	for sym := range 32 {
+		ed := max((sym-2)/2, 0)
+		_, _, e := inflate.Inflate(long+fixedBlock(257, dist(sym), extra{0, ed}, 256), 70000)
+		if want := sym < 30; (e == api.OK) != want || !want && e != api.ErrForm {
+			t.Errorf("symbol %d: %d", sym, e)
+		}
+	}
 }
 
 // 10.1

@@ -126,6 +126,7 @@ func TestExpand(t *testing.T) {
 	}{
 		{append(lit("x"), match(4, 1)), 5, "xxxxx", api.OK},
 		{append(lit("abc"), match(7, 3)), 99, "abcabcabca", api.OK},
+		{append(lit("\x00\x01\xff"), match(3, 3)), 6, "\x00\x01\xff\x00\x01\xff", api.OK},
 		{nil, 0, "", api.OK}, {nil, -1, "", api.OK},
 		{lit("a"), 0, "", api.ErrLimit}, {lit("a"), -1, "", api.ErrLimit}, {lit("a"), math.MinInt, "", api.ErrLimit},
 		{append(lit("x"), match(4, 1)), 4, "", api.ErrLimit},

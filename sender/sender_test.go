@@ -201,7 +201,8 @@ func TestHear(t *testing.T) {
 	a := packed(t, 5, 4)
 	p, _ := keeping(t, a)
 	s := sender.New(p)
-	if s.Hear(ack(1, 1, a)) || s.Hear(done(1, 1, a)) {
+	none := api.Packet{Kind: api.Done, From: 1, Seq: 1}
+	if s.Hear(ack(1, 1, a)) || s.Hear(done(1, 1, a)) || s.Hear(none) || len(s.Done()) > 0 {
 		t.Error("before the offer")
 	}
 	s.Tick(0)

@@ -246,6 +246,71 @@ func TestFaults(t *testing.T) {
 	}
 }
 
+// 39.1: bits are no code only when 15 of them have arrived.
+func TestNoCode(t *testing.T) {
+	for n := 1; n < 30; n++ {
+		var w bits.Writer
+		w.Put(5, 3)
+		w.Put(1, 5)  // 258 lengths
+		w.Put(0, 5)  // one distance
+		w.Put(14, 4) // 18 lengths of lengths
+		own := make([]int, 19)
+		own[0], own[1], own[2], own[18] = 2, 2, 2, 2
+		for _, i := range []int{16, 17, 18, 0, 8, 7, 9, 6, 10, 5, 11, 4, 12, 3, 13, 2, 14, 1} {
+			w.Put(own[i], 3)
+		}
+		codes, _ := huff.Codes(own)
+		put := func(sym, extra int) {
+			w.Code(codes[sym], 2)
+			if sym == 18 {
+				w.Put(extra-11, 7)
+			}
+		}
+		put(18, 97) // the byte a has 1 bit, the end and the length 3 have 2, the distance 1 has 1
+		put(1, 0)
+		put(18, 138)
+		put(18, 20)
+		put(2, 0)
+		put(2, 0)
+		put(1, 0)
+		w.Put(0, n)  // n bytes a
+		w.Code(3, 2) // a match
+		w.Put(1, 1)  // but no distance
+		before := w.Len() - 1
+		w.Put(-1, 40)
+		r := stream.New(99)
+		out := ""
+		for i := range len(w.Bytes()) {
+			got, e := r.Feed(w.Bytes()[i : i+1])
+			out += got
+			if want := 8*(i+1) >= before+15; (e == api.ErrForm) != want || !want && e != api.OK {
+				t.Fatalf("%d bytes, after %d bits, with %d ahead of what is no code: %d", n, 8*(i+1), before, e)
+			}
+		}
+		if out != strings.Repeat("a", n) {
+			t.Errorf("%d bytes: %q", n, out)
+		}
+	}
+}
+
+// 39.1: the symbols 30 and 31 are no distances, however far back the string reaches.
+func TestNoDistances(t *testing.T) {
+	b := []byte(flate.Store(letters(60000, 200)))
+	b[0] = 0
+	for sym := range 32 {
+		var w bits.Writer
+		w.Put(3, 3)
+		w.Code(1, 7)
+		w.Code(sym, 5)
+		w.Put(0, max((sym-2)/2, 0))
+		w.Code(0, 7)
+		out, _, e := fed(string(b)+w.Bytes(), 9999, 70000)
+		if want := sym < 30; (e == api.OK) != want || !want && e != api.ErrForm || want && len(out) != 60003 || !want && len(out) != 60000 {
+			t.Errorf("symbol %d: %d bytes, %d", sym, len(out), e)
+		}
+	}
+}
+
 // 39.1: whatever arrives, the result is that of Inflate, in whatever parts.
 func TestAnyBytes(t *testing.T) {
 	rich, simple := flate.Rich(letters(400, 20)+strings.Repeat("abc", 50)), flate.Simple(letters(100, 20)+strings.Repeat("abc", 50))

@@ -161,6 +161,26 @@ func TestNotAcceptable(t *testing.T) {
 	}
 }
 
+// 42.1: where an extent may lie, and beside what.
+func TestPlaces(t *testing.T) {
+	a, b, c := packed(t, 1, 2), packed(t, 2, 3), packed(t, 3, 5)
+	d := laid(t, 40, layout{5, 37, b, nil})
+	moved(t, d, tidy.Move{Sector: 5, From: 37, To: 13})
+	keeps(t, d, b)
+	d = laid(t, 40, layout{5, 38, b, nil}, layout{6, 20, a, nil})
+	moved(t, d, tidy.Move{Sector: 6, From: 20, To: 13})
+	d = laid(t, 40, layout{5, 12, b, nil}, layout{6, 20, a, nil}, layout{1, 11, c, []int{0}})
+	moved(t, d, tidy.Move{Sector: 6, From: 20, To: 13})
+	// The same archive a second time.
+	d = laid(t, 40, layout{5, 13, a, nil}, layout{6, 30, a, nil}, layout{7, 20, b, nil}, layout{2, 15, b, []int{0}})
+	moved(t, d, tidy.Move{Sector: 7, From: 20, To: 15})
+	// A record that has no header with a right tag is no obstacle.
+	wrong := api.Archive{Head: c.Head}
+	wrong.Head.Tag = strings.Repeat("t", 32)
+	d = laid(t, 40, layout{1, 13, wrong, []int{0}}, layout{7, 20, b, nil})
+	moved(t, d, tidy.Move{Sector: 7, From: 20, To: 13})
+}
+
 // 42.1
 func TestErrors(t *testing.T) {
 	small, _ := disk.New(12)

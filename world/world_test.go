@@ -272,6 +272,57 @@ func TestLastAnswer(t *testing.T) {
 	}
 }
 
+// 32.2: a side that is down does not answer, not even from memory.
+func TestNoAnswer(t *testing.T) {
+	w := made(t, 40, 40, api.Fair{})
+	do(t, w, pack(1, 1), api.OK)
+	ticks(w, 6)
+	a := w.Packed()[0]
+	data, e := packet.Put(api.Packet{Kind: api.Data, From: 1, ID: 1, Text: a.Blocks[0]})
+	if e != api.OK || !slices.Equal(w.Done(), []int{1}) {
+		t.Fatal(e)
+	}
+	do(t, w, api.Step{Kind: api.Inject, N: r, Text: data}, api.OK)
+	ticks(w, 1)
+	if w.Way() != 1 {
+		t.Error("no answer of a side that is up", w.Way())
+	}
+	ticks(w, 1)
+	do(t, w, api.Step{Kind: api.FuseR, N: 0}, api.OK)
+	do(t, w, pack(1, 2), api.OK)
+	ticks(w, 2)
+	if w.Up(r) {
+		t.Fatal("up")
+	}
+	before := w.Way()
+	do(t, w, api.Step{Kind: api.FuseS, N: 0}, api.OK)
+	do(t, w, pack(1, 3), api.ErrPower)
+	do(t, w, api.Step{Kind: api.Inject, N: r, Text: data}, api.OK)
+	ticks(w, 1)
+	if before != 0 || w.Way() != 0 {
+		t.Error("an answer of a side that is down", before, w.Way())
+	}
+}
+
+// 32.2, 32.4: a block that is lost with its record is staged again.
+func TestStagedAgain(t *testing.T) {
+	w := made(t, 40, 40, api.Fair{})
+	do(t, w, pack(2, 1), api.OK)
+	drop := api.Fate{Drop: true}
+	for _, f := range []api.Fate{{}, {}, drop, {}, drop} { // an offer, an ack, an offer, the two blocks
+		do(t, w, api.Step{Kind: api.Fated, Fate: f}, api.OK)
+	}
+	ticks(w, 4)
+	if !slices.Equal(w.Trace().Staged, []api.Writes{{ID: 1, I: 0, N: 1}}) {
+		t.Fatal(w.Trace().Staged)
+	}
+	do(t, w, api.Step{Kind: api.CrashR, N: 0}, api.OK)
+	ticks(w, 60)
+	if !slices.Equal(w.Trace().Staged, []api.Writes{{ID: 1, I: 0, N: 2}, {ID: 1, I: 1, N: 1}}) || !slices.Equal(w.Done(), []int{1}) {
+		t.Error(w.Trace().Staged, w.Done())
+	}
+}
+
 // 32.2
 func TestInject(t *testing.T) {
 	w := made(t, 40, 40, api.Fair{})
