@@ -192,7 +192,7 @@ func TestPutAndTake(t *testing.T) {
 		e api.Errno
 	}{
 		{"", api.ErrForm}, {"\xff", api.ErrForm}, {encoded(513), api.ErrFull}, {encoded(1 << 40), api.ErrFull}, {encoded(513, many...), api.ErrFull}, {encoded(512), api.ErrForm},
-		{encoded(1, 0, long+"p", 1, 0, sum), api.ErrFull}, {encoded(1, 0, enc.PutNum(4097)), api.ErrForm}, {encoded(1, 0, raw(enc.PutNum(4097))), api.ErrFull}, {encoded(1, 0, long+"p"), api.ErrFull}, {encoded(1, 5, long+"p"), api.ErrFull}, {encoded(2, 0, "/", 1, 0, sum, 0, long+"p"), api.ErrForm},
+		{encoded(1, 0, long+"p", 1, 0, sum), api.ErrFull}, {encoded(1, 0, enc.PutNum(4097)), api.ErrForm}, {encoded(1, 0, raw(enc.PutNum(4097))), api.ErrFull}, {encoded(1, 0, long+"p"), api.ErrFull}, {encoded(1, 5, long+"p"), api.ErrFull},
 		{encoded(1, 1, "a", 1, 0, sum), api.ErrForm}, {encoded(2, 0, "a", 1, 0, sum, 2, "b", 1, 0, sum), api.ErrForm}, {encoded(1, 0, "a", 0, 0, sum), api.ErrForm}, {encoded(1, 0, "a", 1<<32, 0, sum), api.ErrForm}, {encoded(1, 0, "", 1, 0, sum), api.ErrForm}, {encoded(1, 0, "/a", 1, 0, sum), api.ErrForm}, {encoded(1, 0, "a", 1, 0, sum[1:]), api.ErrForm},
 		{encoded(2, 0, "a", 1, 0, sum, 1, "", 1, 0, sum), api.ErrForm}, {encoded(2, 0, "b", 1, 0, sum, 0, "a", 1, 0, sum), api.ErrForm}, {encoded(2, 0, "ab", 1, 0, sum, 0, "ac", 1, 0, sum), api.ErrForm}, {encoded(2, 0, "ab", 1, 0, sum, 1, "c", 1, 0, sum), api.OK}, {encoded(2, 0, long, 1, 0, sum, 4096, "x", 1, 0, sum), api.ErrForm},
 		{"\xf8\x01" + encoded(1, 0, "a", 1, 0, sum)[1:], api.ErrForm}, {encoded(1, raw("\xf8\x00"), "a", 1, 0, sum), api.ErrForm},

@@ -151,7 +151,7 @@ func TestFairAlways(t *testing.T) {
 			class := [2]int{x >> 20 & 1, x >> 24 & 3}
 			f := n.Send(0, class[0], class[1], "a")
 			forced := late[class] >= fair.K-1
-			if !forced && f != own || forced && (f.Drop || f.Delay != min(own.Delay, fair.D)) {
+			if !forced && (f.Drop != own.Drop || !own.Drop && f != own) || forced && (f.Drop || f.Delay != min(own.Delay, fair.D)) {
 				t.Fatalf("%v: %v becomes %v", fair, own, f)
 			}
 			if f.Drop || f.Delay > fair.D {

@@ -45,7 +45,7 @@ func TestExample(t *testing.T) {
 	runs(t, text("world 20 20 0 0", "pack 61:78", "tick 6"), text(
 		"now 6 packed 1 way 0", "sender epoch 1", "sender keeps 1 1 blocks", "receiver epoch 1", "receiver keeps 1 1 blocks", "done 1", "state ok",
 		"archive 1 61 1 bytes", "staged 1 at most 1 times", "crashes 0 0", "flight 1 injected 0"))
-	runs(t, text("world 20 20 0 0"), text(
+	runs(t, text("world 20 20 1 0"), text(
 		"now 0 packed 0 way 0", "sender epoch 1", "receiver epoch 1", "state ok", "staged 0 at most 0 times", "crashes 0 0", "flight 0 injected 0", "bound 0"))
 }
 

@@ -224,8 +224,4 @@ func TestNil(t *testing.T) {
 	if x, ok := d.Next(9); x != "" || ok || d.Len() != 0 {
 		t.Error("due")
 	}
-	var zero ring.Ring[int]
-	if _, ok := zero.Pop(); ok || zero.Push(1) || zero.Len() != 0 || len(list(&zero)) > 0 {
-		t.Error("zero")
-	}
 }

@@ -283,7 +283,7 @@ func TestNoCode(t *testing.T) {
 		for i := range len(w.Bytes()) {
 			got, e := r.Feed(w.Bytes()[i : i+1])
 			out += got
-			if want := 8*(i+1) >= before+15; (e == api.ErrForm) != want || !want && e != api.OK {
+			if bits := 8 * (i + 1); bits < before+15 && e != api.OK || bits > before+15 && e != api.ErrForm {
 				t.Fatalf("%d bytes, after %d bits, with %d ahead of what is no code: %d", n, 8*(i+1), before, e)
 			}
 		}
