@@ -78,6 +78,22 @@ func TestProofs(t *testing.T) {
 	}
 }
 
+// R4
+func TestMemory(t *testing.T) {
+	l := append(leaves(32, 7), "behind")
+	keep := slices.Clone(l)
+	p, _ := consist.Prove(32, 3, l[:7]...)
+	q := append(slices.Clone(p), "behind")
+	if _, _, e := consist.Roots(32, 3, 7, merkle.Root(32, l[:3]...), q[:len(p)]...); e != api.OK {
+		t.Error(e)
+	}
+	consist.Clash(32, 3, merkle.Root(32, l[:3]...), q[:len(p)], l[:7]...)
+	p[0] = "changed"
+	if !slices.Equal(l, keep) || q[len(q)-1] != "behind" || q[0] != l[2] {
+		t.Error("changed")
+	}
+}
+
 // 40.2
 func TestErrors(t *testing.T) {
 	l := leaves(8, 7)

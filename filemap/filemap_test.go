@@ -119,6 +119,22 @@ func TestTake(t *testing.T) {
 	}
 }
 
+// R4
+func TestMemory(t *testing.T) {
+	l := []api.File{f("c", "3"), f("a", "1"), f("b", "2"), f("/", "behind")}
+	keep := slices.Clone(l)
+	filemap.Sort(l[:3]...)
+	if e := filemap.Check(l[:3]...); e != api.OK {
+		t.Error(e)
+	}
+	if s, e := filemap.Put(l[:3]...); s != "\x03\x01a\x011\x01b\x012\x01c\x013" || e != api.OK {
+		t.Error(e)
+	}
+	if !filemap.Same(l[:3], []api.File{l[1], l[0], l[2]}) || !slices.Equal(l, keep) {
+		t.Error("changed")
+	}
+}
+
 // 12.4
 func TestSame(t *testing.T) {
 	a, b, c := f("a", "1"), f("b", "2"), f("c", "3")

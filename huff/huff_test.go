@@ -266,6 +266,29 @@ func TestDecode(t *testing.T) {
 	}
 }
 
+// R4: a table does not retain the lengths, and nothing behind them is touched.
+func TestMemory(t *testing.T) {
+	l := []int{3, 0, 3, 2, 1, 15, 15}
+	table, _ := huff.New(l[:5])
+	codes, e := huff.Codes(l[:5])
+	if e != api.OK || len(codes) != 5 {
+		t.Error(e)
+	}
+	for i := range 5 {
+		l[i] = 1
+	}
+	var w bits.Writer
+	w.Code(7, 3)
+	if sym, e := table.Decode(bits.New(w.Bytes())); sym != 2 || e != api.OK {
+		t.Error("retained", sym, e)
+	}
+	freq := []int{5, 1, 1, -1}
+	got, e := huff.Lengths(freq[:3], 15)
+	if e != api.OK || !slices.Equal(freq, []int{5, 1, 1, -1}) || len(append(got, 9)) != 4 {
+		t.Error("changed", e)
+	}
+}
+
 // 7.4
 func TestRoundTrip(t *testing.T) {
 	freq := make([]int, 320)

@@ -129,6 +129,25 @@ func TestProofs(t *testing.T) {
 	}
 }
 
+// R4
+func TestMemory(t *testing.T) {
+	l := append(leaves(32, 7), "behind")
+	keep := slices.Clone(l)
+	p, _ := merkle.Proof(32, 2, l[:7]...)
+	merkle.Root(32, l[:7]...)
+	merkle.Up(32, 2, 7, l[2], p[:len(p):len(p)]...)
+	p = append(p, "more")
+	p[0] = "changed"
+	if !slices.Equal(l, keep) {
+		t.Error("changed")
+	}
+	way := merkle.Way(2, 7)
+	way[0] = !way[0]
+	if slices.Equal(way, merkle.Way(2, 7)) {
+		t.Error("shared")
+	}
+}
+
 // 15.3
 func TestWay(t *testing.T) {
 	for _, x := range []struct {

@@ -118,6 +118,23 @@ func TestInvalid(t *testing.T) {
 	}
 }
 
+// R4
+func TestMemory(t *testing.T) {
+	l := append(leaves(32, 6), "behind")
+	keep := slices.Clone(l)
+	want := []int{1, 4, 99}
+	p, _ := multi.Prove(32, want[:2], l[:6]...)
+	sums, q := []string{l[1], l[4], "behind"}, append(slices.Clone(p), "behind")
+	if e := multi.Check(32, merkle.Root(32, l[:6]...), 6, want[:2], sums[:2], q[:len(p)]...); e != api.OK {
+		t.Error(e)
+	}
+	multi.Count(6, want[:2])
+	p[0] = "changed"
+	if !slices.Equal(l, keep) || !slices.Equal(want, []int{1, 4, 99}) || sums[2] != "behind" || q[len(q)-1] != "behind" {
+		t.Error("changed")
+	}
+}
+
 // 41.2
 func TestErrors(t *testing.T) {
 	l := leaves(8, 6)

@@ -3,6 +3,7 @@ package net_test
 import (
 	"math"
 	"slices"
+	"strconv"
 	"testing"
 
 	"sledge/api"
@@ -212,6 +213,47 @@ func TestMaxPackets(t *testing.T) {
 	got := arrived(n, 1000)
 	if len(got) != api.MaxPackets || !slices.Equal(got[len(got)-2:], []string{"1b", "1b"}) || slices.Contains(got, "1c") || !slices.Contains(got, "1e") || slices.Contains(got, "1f") {
 		t.Error(len(got), got[len(got)-2:])
+	}
+}
+
+// 28.4
+func TestNothingElseArrives(t *testing.T) {
+	x := 3
+	below := func(m int) int { x = x*6364136223846793005 + 1442695040888963407; return (x >> 33 & 0xffffff) % m }
+	for seed := range 20 {
+		n := net.New(api.Fair{K: seed % 4, D: seed % 3})
+		allowed, due := map[string]int{}, map[string]int{}
+		for now := range 400 {
+			for {
+				to, s, ok := n.Next(now)
+				if !ok {
+					break
+				}
+				key := string(rune('0'+to)) + s
+				if allowed[key]--; allowed[key] < 0 || now < due[key] {
+					t.Fatalf("%q at %d", key, now)
+				}
+			}
+			key := strconv.Itoa(now)
+			to := below(2)
+			switch below(4) {
+			case 0:
+				n.Fates(api.Fate{Drop: below(2) == 0, Delay: below(90), Copies: below(6)})
+			case 1:
+				d := below(90)
+				n.Inject(now, to, d, key)
+				allowed[string(rune('0'+to))+key], due[string(rune('0'+to))+key] = 1, now+1+min(d, 64)
+			default:
+				f := n.Send(now, to, below(3), key)
+				if !f.Drop {
+					allowed[string(rune('0'+to))+key], due[string(rune('0'+to))+key] = 1+f.Copies, now+1+f.Delay
+				}
+			}
+		}
+		arrived(n, 1000)
+		if n.Len() != 0 {
+			t.Error("left over", n.Len())
+		}
 	}
 }
 

@@ -187,11 +187,21 @@ func TestCommitFails(t *testing.T) {
 	answers(t, r, offer(a.Head), api.Packet{Kind: api.Done, From: 2, Seq: 2, ID: 9, Text: a.Head.Root})
 }
 
-// P1
-func TestNil(t *testing.T) {
+// 31.1
+func TestNew(t *testing.T) {
 	if receiver.New(nil) != nil {
 		t.Error("a nil depot")
 	}
+	r, p, _ := opened(t)
+	a := packed(t, 7, 1)
+	for seq := 1; seq < 4; seq++ {
+		answers(t, r, offer(a.Head), api.Packet{Kind: api.Ack, From: 1, Seq: seq, ID: 7, I: 1, N: 1, Text: set(1)})
+	}
+	answers(t, receiver.New(p), offer(a.Head), api.Packet{Kind: api.Ack, From: 1, Seq: 1, ID: 7, I: 1, N: 1, Text: set(1)})
+}
+
+// P1
+func TestNil(t *testing.T) {
 	var r *receiver.Receiver
 	silent(t, "nil", r, offer(packed(t, 1, 1).Head))
 	silent(t, "nil", r, api.Packet{})

@@ -167,6 +167,25 @@ func TestWith(t *testing.T) {
 	}
 }
 
+// R4
+func TestMemory(t *testing.T) {
+	l := append(lz.Parse(skewed(700, 0)), api.Token{Lit: -1})
+	keep := slices.Clone(l)
+	n := len(l) - 1
+	cuts, kinds := split.Plan(l[:n])
+	own, own2 := append(slices.Clone(cuts), 7), append(slices.Clone(kinds), 9)
+	if _, e := split.With(l[:n], own[:len(cuts)], own2[:len(kinds)]); e != api.OK {
+		t.Error(e)
+	}
+	if !slices.Equal(l, keep) || own[len(cuts)] != 7 || own2[len(kinds)] != 9 {
+		t.Error("changed")
+	}
+	cuts[0], kinds[0] = -1, -1
+	if again, kinds2 := split.Plan(l[:n]); again[0] == -1 || kinds2[0] == -1 {
+		t.Error("shared")
+	}
+}
+
 // 47.3, 47.4
 func TestPack(t *testing.T) {
 	shorter := 0
