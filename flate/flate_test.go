@@ -258,6 +258,29 @@ func want(freq []int) []int {
 	return l
 }
 
+// 9.4: frequencies for which codes of all lengths are needed.
+func TestAllLengths(t *testing.T) {
+	var l []api.Token
+	s := ""
+	for i := range 15 {
+		for range 1 << i {
+			l = append(l, api.Token{Lit: 7 * i})
+		}
+		s += strings.Repeat(string([]byte{byte(7 * i)}), 1<<i)
+	}
+	var w bits.Writer
+	flate.Block(&w, l, 2, true)
+	lits, _ := codes(t, w.Bytes())
+	for n := 1; n <= 15; n++ {
+		if !slices.Contains(lits, n) {
+			t.Errorf("no code of %d bits", n)
+		}
+	}
+	if got, used := unpack(t, w.Bytes()); got != s || used != len(w.Bytes()) {
+		t.Error("unpacked otherwise")
+	}
+}
+
 // 9.4
 func TestBlock(t *testing.T) {
 	s := strings.Repeat(letters(300, 9), 3) + letters(200, 30)

@@ -83,6 +83,23 @@ func TestCut(t *testing.T) {
 	}
 }
 
+// 10.1: frequencies for which codes of all lengths are needed.
+func TestAllLengths(t *testing.T) {
+	var l []api.Token
+	s := ""
+	for i := range 15 {
+		for range 1 << i {
+			l = append(l, api.Token{Lit: 7 * i})
+		}
+		s += strings.Repeat(string([]byte{byte(7 * i)}), 1<<i)
+	}
+	var w bits.Writer
+	flate.Block(&w, l, 2, true)
+	check(t, "all lengths", w.Bytes(), len(s), s, len(w.Bytes()), api.OK)
+	check(t, "nothing, stored", flate.Store(""), -7, "", 5, api.OK)
+	check(t, "nothing, rich", flate.Rich(""), -7, "", len(flate.Rich("")), api.OK)
+}
+
 // 10.1: the symbols 30 and 31 are no distances, however far back the string reaches.
 func TestNoDistances(t *testing.T) {
 	long := unlast(flate.Store(letters(60000, 200)))

@@ -146,7 +146,7 @@ func TestEqual(t *testing.T) {
 		t.Error("answers after losses")
 	}
 	many := p
-	for range 9 {
+	for range 6 {
 		many = many.Lost()
 	}
 	if many != many.Lost() {

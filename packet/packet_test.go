@@ -110,7 +110,7 @@ func TestWrong(t *testing.T) {
 		with(data, func(p *api.Packet) { p.Seq = 1 }), with(data, func(p *api.Packet) { p.N = 5 }), with(data, func(p *api.Packet) { p.I = -1 }), with(data, func(p *api.Packet) { p.I = 256 }), with(data, func(p *api.Packet) { p.I = 1 << 16 }),
 		with(data, func(p *api.Packet) { p.Proof = slices.Repeat([]string{sum}, 9) }), with(data, func(p *api.Packet) { p.Proof = slices.Repeat([]string{sum}, 10) }), with(data, func(p *api.Packet) { p.Proof = slices.Repeat([]string{sum}, 256) }),
 		with(data, func(p *api.Packet) { p.Proof[1] = "" }), with(data, func(p *api.Packet) { p.Proof[0] += "x" }), with(data, func(p *api.Packet) { p.Proof[0], p.Proof[1] = sum+"x", sum[1:] }),
-		with(ack, func(p *api.Packet) { p.I = 6 }), with(ack, func(p *api.Packet) { p.I = -1 }), with(ack, func(p *api.Packet) { p.N, p.I = 0, 0 }), with(ack, func(p *api.Packet) { p.N = 257 }), with(ack, func(p *api.Packet) { p.N, p.I = 3, 0 }), with(ack, func(p *api.Packet) { p.N = -1 }),
+		with(ack, func(p *api.Packet) { p.I = 6 }), with(ack, func(p *api.Packet) { p.I = -1 }), with(ack, func(p *api.Packet) { p.N, p.I = 0, 0 }), with(ack, func(p *api.Packet) { p.N, p.I, p.Text = 0, 0, bitset.New(0).Put() }), with(ack, func(p *api.Packet) { p.N = 257 }), with(ack, func(p *api.Packet) { p.N, p.I = 3, 0 }), with(ack, func(p *api.Packet) { p.N = -1 }),
 		with(done, func(p *api.Packet) { p.I = 1 }), with(done, func(p *api.Packet) { p.N = 1 }))
 	for i, p := range l {
 		if e := packet.Check(p); e != api.ErrArg {

@@ -83,6 +83,8 @@ func TestTrouble(t *testing.T) {
 	runs(t, text("world 40 40 1 0", "pack 66:"+big, "pack 61:- 622f63:787878", "tick 30", "fuse sender 0", "fuse receiver 1", "pack 78:79", "pack 78:79", "tick 1", "inject sender - 64"), text(
 		"step 34 power", "step 35 power", "now 31 packed 3 way 1", "sender down", "receiver epoch 1", "receiver keeps 1 12 blocks", "receiver keeps 2 1 blocks", "state ok",
 		"archive 1 66 2274 bytes", "archive 2 61 0 bytes", "archive 2 622f63 3 bytes", "staged 13 at most 1 times", "crashes 0 0", "flight 8 injected 1"))
+	runs(t, text("world 40 40 0 0", "pack 66:"+script.Hex(noise(2*192-30)), "fate 0 0", "fate 0 0", "fate drop", "fate 0 0", "fate drop", "tick 4", "crash receiver 0", "tick 60"), text(
+		"now 64 packed 1 way 0", "sender epoch 1", "sender keeps 1 2 blocks", "receiver epoch 2", "receiver keeps 1 2 blocks", "done 1", "state ok", "archive 1 66 354 bytes", "staged 3 at most 2 times", "crashes 0 1", "flight 2 injected 0"))
 	runs(t, text("world 40 40 1 0", "pack 61:62", "tick 1", "fuse receiver 0", "tick 3"), text(
 		"now 4 packed 1 way 0", "sender epoch 1", "sender keeps 1 1 blocks", "receiver down", "staged 0 at most 0 times", "crashes 0 0", "flight 0 injected 0", "bound 156"))
 }

@@ -293,6 +293,53 @@ func TestNoCode(t *testing.T) {
 	}
 }
 
+// 39.1: frequencies for which codes of all lengths are needed.
+func TestAllLengths(t *testing.T) {
+	var l []api.Token
+	s := ""
+	for i := range 15 {
+		for range 1 << i {
+			l = append(l, api.Token{Lit: 7 * i})
+		}
+		s += strings.Repeat(string([]byte{byte(7 * i)}), 1<<i)
+	}
+	var w bits.Writer
+	flate.Block(&w, l, 2, true)
+	for _, part := range []int{1, 50, 99999} {
+		got, r, e := fed(w.Bytes(), part, len(s))
+		if n, ok := r.Done(); got != s || e != api.OK || n != len(w.Bytes()) || !ok {
+			t.Errorf("parts of %d: %d bytes, %d", part, len(got), e)
+		}
+	}
+}
+
+// 39.1: a match may begin 32768 bytes back, and no further, however long the output is.
+func TestFarBack(t *testing.T) {
+	long := letters(65535, 251)
+	head := []byte(flate.Store(long))
+	head[0] = 0
+	for dist := 32760; dist <= 32768; dist++ {
+		r := stream.New(300000)
+		want := ""
+		for range 3 {
+			if s, e := r.Feed(string(head)); s != long || e != api.OK {
+				t.Fatal(e)
+			}
+			want += long
+		}
+		var w bits.Writer
+		w.Put(3, 3)
+		w.Code(1, 7)
+		w.Code(29, 5)
+		w.Put(dist-24577, 13)
+		w.Code(0, 7)
+		s, e := r.Feed(w.Bytes())
+		if at := len(want) - dist; s != want[at:at+3] || e != api.OK {
+			t.Errorf("%d back: %q %d", dist, s, e)
+		}
+	}
+}
+
 // 39.1: the symbols 30 and 31 are no distances, however far back the string reaches.
 func TestNoDistances(t *testing.T) {
 	b := []byte(flate.Store(letters(60000, 200)))
