@@ -59,7 +59,7 @@ func TestProofs(t *testing.T) {
 				}
 			}
 			for _, m := range []int{0, -1, n + 1, math.MinInt, math.MaxInt} {
-				if p, e := consist.Prove(w, m, l...); p != nil || e != api.ErrArg {
+				if p, e := consist.Prove(w, m, l...); len(p) > 0 || e != api.ErrArg {
 					t.Errorf("%d of %d: %d", m, n, e)
 				}
 			}
@@ -68,7 +68,7 @@ func TestProofs(t *testing.T) {
 			}
 		}
 	}
-	if p, e := consist.Prove(32, 0); p != nil || e != api.ErrArg {
+	if p, e := consist.Prove(32, 0); len(p) > 0 || e != api.ErrArg {
 		t.Error("no sums")
 	}
 	l := leaves(32, 7)

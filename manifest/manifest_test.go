@@ -83,7 +83,7 @@ func TestTake(t *testing.T) {
 		if got, n, e := manifest.Take("key", s); !slices.Equal(got, l) || n != 0 || e != api.OK {
 			t.Errorf("list %d: %d %d", i, n, e)
 		}
-		if got, n, e := manifest.Take("other", s); got != nil || n != len(l)+2 || e != api.ErrTag {
+		if got, n, e := manifest.Take("other", s); len(got) > 0 || n != len(l)+2 || e != api.ErrTag {
 			t.Errorf("list %d, another key: %d %d", i, n, e)
 		}
 	}
@@ -114,14 +114,14 @@ func TestTakeErrors(t *testing.T) {
 		{tagged(many), 0, api.OK}, {tagged(many + line(head(257))), 258, api.ErrFull}, {tagged(many + line(head(257)) + "x\n"), 258, api.ErrFull}, {many + line(head(257)), 258, api.ErrFull}, {many, 258, api.ErrForm},
 	} {
 		l, n, e := manifest.Take("key", x.text)
-		if n != x.n || e != x.e || e != api.OK && l != nil {
+		if n != x.n || e != x.e || e != api.OK && len(l) > 0 {
 			t.Errorf("case %d: %d %d, not %d %d", i, n, e, x.n, x.e)
 		}
 	}
 	for i := range len(good) {
 		changed := []byte(good)
 		changed[i] ^= 1
-		if l, n, e := manifest.Take("key", string(changed)); e == api.OK || l != nil || n < 1 {
+		if l, n, e := manifest.Take("key", string(changed)); e == api.OK || len(l) > 0 || n < 1 {
 			t.Errorf("byte %d changed: %d %d", i, n, e)
 		}
 	}

@@ -111,13 +111,13 @@ func TestProofs(t *testing.T) {
 				t.Fatal("arguments are changed")
 			}
 			for _, i := range []int{-1, n, math.MinInt, math.MaxInt} {
-				if p, e := merkle.Proof(w, i, l...); e != api.ErrArg || p != nil {
+				if p, e := merkle.Proof(w, i, l...); e != api.ErrArg || len(p) > 0 {
 					t.Errorf("leaf %d of %d: %d", i, n, e)
 				}
 			}
 		}
 	}
-	if p, e := merkle.Proof(32, 0); e != api.ErrArg || p != nil {
+	if p, e := merkle.Proof(32, 0); e != api.ErrArg || len(p) > 0 {
 		t.Error("no leaves")
 	}
 	l := leaves(32, 3)

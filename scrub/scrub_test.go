@@ -151,7 +151,7 @@ func TestErrors(t *testing.T) {
 	dead.Fuse(0)
 	dead.Sync()
 	for _, d := range []*disk.Disk{small, dead, nil} {
-		if l, f, e := scrub.Scan(d, "secret"); l != nil || f != nil || e != api.ErrArg {
+		if l, f, e := scrub.Scan(d, "secret"); len(l) > 0 || len(f) > 0 || e != api.ErrArg {
 			t.Error("a small disk", e)
 		}
 	}
@@ -159,7 +159,7 @@ func TestErrors(t *testing.T) {
 	d.Fuse(0)
 	scanned(t, d, lines("0 epoch 1", "1-19 blank"))
 	d.Sync()
-	if l, f, e := scrub.Scan(d, "secret"); l != nil || f != nil || e != api.ErrPower {
+	if l, f, e := scrub.Scan(d, "secret"); len(l) > 0 || len(f) > 0 || e != api.ErrPower {
 		t.Error("no power", e)
 	}
 }

@@ -214,7 +214,7 @@ func TestDown(t *testing.T) {
 	ticks(w, 1)
 	do(t, w, api.Step{Kind: api.FuseR, N: 0}, api.OK)
 	ticks(w, 1)
-	if w.Up(r) || w.Way() != 0 || w.Depot(r) != nil || w.Kept(r) != nil {
+	if w.Up(r) || w.Way() != 0 || w.Depot(r) != nil || len(w.Kept(r)) > 0 {
 		t.Error("the receiver is not down")
 	}
 	ticks(w, 1)
@@ -471,12 +471,12 @@ func TestLive(t *testing.T) {
 func TestNil(t *testing.T) {
 	var w *world.World
 	tr := w.Trace()
-	if w.Do(api.Step{}) != api.ErrNone || w.Do(api.Step{Kind: 99}) != api.ErrNone || w.Now() != 0 || w.Up(r) || w.Depot(s) != nil || w.Kept(r) != nil || w.Packed() != nil || w.Done() != nil || w.Way() != 0 || len(tr.Tagged)+len(tr.Injected)+len(tr.Staged) > 0 {
+	if w.Do(api.Step{}) != api.ErrNone || w.Do(api.Step{Kind: 99}) != api.ErrNone || w.Now() != 0 || w.Up(r) || w.Depot(s) != nil || len(w.Kept(r)) > 0 || len(w.Packed()) > 0 || len(w.Done()) > 0 || w.Way() != 0 || len(tr.Tagged)+len(tr.Injected)+len(tr.Staged) > 0 {
 		t.Error("nil")
 	}
 	w = made(t, 20, 20, api.Fair{})
 	for _, to := range []int{-1, 2, math.MinInt, math.MaxInt} {
-		if w.Up(to) || w.Depot(to) != nil || w.Kept(to) != nil {
+		if w.Up(to) || w.Depot(to) != nil || len(w.Kept(to)) > 0 {
 			t.Error("a side that does not exist", to)
 		}
 	}
