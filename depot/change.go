@@ -81,15 +81,18 @@ func (p *Depot) Stage(id, i int, s string) api.Errno {
 	if e != api.OK {
 		return e
 	}
+	if e := p.d.Write(r.Base+i, s); e != api.OK {
+		return e
+	}
+	p.staged++ // written is more than staged: the power may still fail before the record has the block
 	// The block must be safe before the record says that it is there.
-	if e := p.writeSynced(r.Base+i, s); e != api.OK {
+	if e := p.d.Sync(); e != api.OK {
 		return e
 	}
 	if e := p.d.Write(firstRecord+k, text); e != api.OK {
 		return e
 	}
 	p.records[k] = &r
-	p.staged++
 	return api.OK
 }
 

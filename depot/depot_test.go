@@ -365,7 +365,7 @@ func TestBeginErrors(t *testing.T) {
 	holds(t, p, []int{}, []int{1, 3, 4, 9})
 }
 
-// 25.4
+// 25.2, 25.4: a block that is written counts even if the power fails before its record is written.
 func TestStageErrors(t *testing.T) {
 	d := fresh(t, 33)
 	p := open(t, d)
@@ -384,11 +384,13 @@ func TestStageErrors(t *testing.T) {
 	if p.Staged() != 1 {
 		t.Error(p.Staged())
 	}
-	for fuse := range 3 {
+	for fuse, written := range []int{0, 1, 1} {
 		d.Fuse(fuse)
+		before := p.Staged()
 		expect(t, "stage", p.Stage(1, 0, a.Blocks[0]), api.ErrPower)
-		if got, _ := p.Got(1); got.Has(0) || p.Staged() > 1 {
-			t.Error("staged without power")
+		expect(t, "stage without power", p.Stage(1, 0, a.Blocks[0]), api.ErrPower)
+		if got, _ := p.Got(1); got.Has(0) || p.Staged() != before+written {
+			t.Errorf("fuse %d: %v, %d written", fuse, got.List(), p.Staged()-before)
 		}
 		d.Crash(-1)
 		p = open(t, d)

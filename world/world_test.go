@@ -323,6 +323,26 @@ func TestStagedAgain(t *testing.T) {
 	}
 }
 
+// 32.2, 32.4: a block that was written is recorded, even if the power went off before its record was written.
+func TestWrittenNotStaged(t *testing.T) {
+	for fuse, n := range []int{0, 1, 1, 1} { // the block, a sync, the record
+		w := made(t, 20, 20, api.Fair{})
+		do(t, w, pack(1, 1), api.OK)
+		ticks(w, 3)
+		do(t, w, api.Step{Kind: api.FuseR, N: fuse}, api.OK)
+		ticks(w, 1)
+		want := []api.Writes{{ID: 1, I: 0, N: n}}[:n]
+		if w.Up(r) || !slices.Equal(w.Trace().Staged, want) {
+			t.Errorf("fuse %d: %v", fuse, w.Trace().Staged)
+		}
+		do(t, w, api.Step{Kind: api.CrashR}, api.OK)
+		ticks(w, 60)
+		if !slices.Equal(w.Trace().Staged, []api.Writes{{ID: 1, I: 0, N: n + 1}}) || !slices.Equal(w.Done(), []int{1}) {
+			t.Errorf("fuse %d: %v, done %v", fuse, w.Trace().Staged, w.Done())
+		}
+	}
+}
+
 // 32.2
 func TestInject(t *testing.T) {
 	w := made(t, 40, 40, api.Fair{})
