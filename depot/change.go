@@ -124,8 +124,7 @@ func (p *Depot) Commit(id int) api.Errno {
 	}
 	// The archive is kept from here on: a record that stays behind meets its entry when the disk is opened again.
 	p.records[k] = nil
-	p.d.Write(firstRecord+k, "")
-	return api.OK
+	return p.d.Write(firstRecord+k, "")
 }
 
 // enter writes the entry of an archive whose blocks are synced.

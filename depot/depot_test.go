@@ -434,8 +434,15 @@ func TestCommitErrors(t *testing.T) {
 	c := d.Clone()
 	q := open(t, c)
 	c.Fuse(2)
-	expect(t, "commit, the record stays", q.Commit(1), api.OK)
+	expect(t, "commit, the record stays", q.Commit(1), api.ErrPower)
 	holds(t, q, []int{1, 2, 4, 5, 6, 7, 8, 9}, []int{})
+	if h, kept, e := q.Head(1); h != a.Head || !kept || e != api.OK {
+		t.Error("kept all the same", e)
+	}
+	if _, e := q.Got(1); e != api.ErrNone {
+		t.Error("got what is kept", e)
+	}
+	expect(t, "commit again without power", q.Commit(1), api.ErrPower)
 	c.Crash(0)
 	q = open(t, c)
 	holds(t, q, []int{1, 2, 4, 5, 6, 7, 8, 9}, []int{})
@@ -572,6 +579,11 @@ func TestCrashes(t *testing.T) {
 			after := ids(p.Kept())
 			if !slices.Contains(after, 3) || committed && !slices.Contains(after, 2) || committed2 && !slices.Contains(after, 1) {
 				t.Errorf("fuse %d, bits %d: kept %d", fuse, bits, after)
+			}
+			for _, id := range kept {
+				if !slices.Contains(after, id) {
+					t.Errorf("fuse %d, bits %d: %d is not kept any more", fuse, bits, id)
+				}
 			}
 			if !tried && !slices.Equal(kept, after) {
 				t.Errorf("fuse %d, bits %d: kept %d, then %d", fuse, bits, kept, after)

@@ -184,6 +184,13 @@ func TestCommitFails(t *testing.T) {
 	cut, _ := depot.Open(c, "secret")
 	c.Fuse(1)
 	answers(t, receiver.New(cut), data(a, 1), api.Packet{Kind: api.Ack, From: 3, Seq: 1, ID: 9, I: 1, N: 2, Text: set(2, 0, 1)})
+	c = d.Clone()
+	cut, _ = depot.Open(c, "secret")
+	c.Fuse(2)
+	answers(t, receiver.New(cut), data(a, 1), api.Packet{Kind: api.Ack, From: 3, Seq: 1, ID: 9, I: 1, N: 2, Text: set(2, 0, 1)})
+	if _, kept, e := cut.Head(9); !kept || e != api.OK {
+		t.Error("not kept, though only its record stays", e)
+	}
 	answers(t, r, offer(a.Head), api.Packet{Kind: api.Done, From: 2, Seq: 2, ID: 9, Text: a.Head.Root})
 }
 

@@ -262,13 +262,17 @@ func TestLastAnswer(t *testing.T) {
 	if w.Up(r) || w.Way() == 0 {
 		t.Error("the answer", w.Up(r), w.Way())
 	}
-	ticks(w, 1)
-	if !slices.Equal(w.Done(), []int{1}) {
-		t.Error(w.Done())
-	}
 	do(t, w, api.Step{Kind: api.CrashR}, api.OK)
 	if !slices.Equal(ids(w.Kept(r)), []int{1}) || len(w.Depot(r).Under()) > 0 {
 		t.Error("not kept")
+	}
+	ticks(w, 1)
+	if len(w.Done()) > 0 {
+		t.Error("an ack of all says that it is kept")
+	}
+	ticks(w, 30)
+	if !slices.Equal(w.Done(), []int{1}) {
+		t.Error(w.Done())
 	}
 }
 
